@@ -13,22 +13,19 @@ const maxScale = 1000000
 // Down: a times b over c.
 func Down(a, b, c int) (int, error) {
 	whole, _, err := over(a, b, c)
-	if err != nil {
-		return 0, err
-	}
-	return amount(whole)
+	return whole, err
 }
 
 // Up: a times b over c.
 func Up(a, b, c int) (int, error) {
 	whole, rest, err := over(a, b, c)
-	if err != nil {
-		return 0, err
+	if err != nil || rest == 0 {
+		return whole, err
 	}
-	if rest > 0 {
-		whole++
+	if whole == api.MaxAmount {
+		return 0, api.ErrBound
 	}
-	return amount(whole)
+	return whole + 1, nil
 }
 
 // Check a bend.
@@ -67,7 +64,7 @@ func Bend(l []api.Point, x int) (int, error) {
 }
 
 // over tells a times b over c, down, and what is left of the product.
-func over(a, b, c int) (whole, rest uint64, err error) {
+func over(a, b, c int) (whole, rest int, err error) {
 	if !isAmount(a) || !isAmount(b) || !isAmount(c) || c == 0 {
 		return 0, 0, api.ErrBound
 	}
@@ -76,15 +73,12 @@ func over(a, b, c int) (whole, rest uint64, err error) {
 	if high >= uint64(c) {
 		return 0, 0, api.ErrBound
 	}
-	whole, rest = bits.Div64(high, low, uint64(c))
-	return whole, rest, nil
-}
-
-func amount(n uint64) (int, error) {
-	if n > api.MaxAmount {
-		return 0, api.ErrBound
+	quotient, left := bits.Div64(high, low, uint64(c))
+	// Bounded while it is still a word: one that fills the word is no int, and would wrap if 1 were added.
+	if quotient > api.MaxAmount {
+		return 0, 0, api.ErrBound
 	}
-	return int(n), nil
+	return int(quotient), int(left), nil
 }
 
 func isAmount(n int) bool { return n >= 0 && n <= api.MaxAmount }

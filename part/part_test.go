@@ -4,6 +4,7 @@ import (
 	"errors"
 	"math"
 	"math/big"
+	"math/bits"
 	"slices"
 	"testing"
 
@@ -56,12 +57,7 @@ func TestPartsOutOfBound(t *testing.T) {
 		{most, most, 1 << 36}, {most, most, 1<<36 + 1}, // where the quotient just fits a machine word
 		{most/2 + 1, 2, 1},
 	} {
-		if n, err := part.Down(c[0], c[1], c[2]); n != 0 || err != api.ErrBound {
-			t.Errorf("Down(%v): %d, %v", c, n, err)
-		}
-		if n, err := part.Up(c[0], c[1], c[2]); n != 0 || err != api.ErrBound {
-			t.Errorf("Up(%v): %d, %v", c, n, err)
-		}
+		wantBeyond(t, c[0], c[1], c[2])
 	}
 }
 
@@ -72,6 +68,53 @@ func TestOnlyUpIsBeyond(t *testing.T) {
 	}
 	if n, err := part.Up(most-1, most-1, most-2); n != 0 || err != api.ErrBound {
 		t.Errorf("Up: %d, %v", n, err)
+	}
+}
+
+// P10: the product is 2^65-1, so its half is 2^64-1 down, and 2^64 up; and some more where the quotient fills a word.
+func TestQuotientFillsAWord(t *testing.T) {
+	wantBeyond(t, 145295143558111, 253921, 2)
+	wantBeyond(t, 253921, 145295143558111, 2)
+	for _, c := range []int{1 << 20, 1000003, 1 << 27, 1<<30 - 1, 1<<33 + 7, 1 << 34} {
+		found := 0
+		for a := c<<15 + 1; a <= most && found < 5; a++ {
+			// The greatest b for which the product is less than c times 2^64.
+			b, left := bits.Div64(uint64(c-1), math.MaxUint64, uint64(a))
+			if left < uint64(c)-1 {
+				found++
+				wantBeyond(t, a, int(b), c)
+				holdAgainstBig(t, a, int(b), c)
+			}
+		}
+		if found < 5 {
+			t.Errorf("over %d: only %d found", c, found)
+		}
+	}
+}
+
+// P10: quotients around those that fill a word, with and without something left.
+func TestQuotientNearAWord(t *testing.T) {
+	for _, c := range []int{1, 2, 3, 5, 1 << 20, 1<<36 - 1} {
+		for _, a := range []int{1 << 32, 1<<32 - 1, 1<<32 + 1, 1 << 40, 1 << 49, most - 1, most} {
+			if a < c<<14 {
+				continue // b would be no amount
+			}
+			near, _ := bits.Div64(uint64(c-1), math.MaxUint64, uint64(a))
+			for b := int(near) - 2; b <= min(int(near)+2, most); b++ {
+				holdAgainstBig(t, a, b, c)
+				holdAgainstBig(t, b, a, c)
+			}
+		}
+	}
+}
+
+func wantBeyond(t *testing.T, a, b, c int) {
+	t.Helper()
+	if n, err := part.Down(a, b, c); n != 0 || err != api.ErrBound {
+		t.Errorf("Down(%d, %d, %d): %d, %v", a, b, c, n, err)
+	}
+	if n, err := part.Up(a, b, c); n != 0 || err != api.ErrBound {
+		t.Errorf("Up(%d, %d, %d): %d, %v", a, b, c, n, err)
 	}
 }
 
