@@ -5,6 +5,7 @@ import (
 	"math/bits"
 
 	"bakehouse/api"
+	"bakehouse/bound"
 )
 
 // maxScale bounds both coordinates of a bend's points.
@@ -65,7 +66,7 @@ func Bend(l []api.Point, x int) (int, error) {
 
 // over tells a times b over c, down, and what is left of the product.
 func over(a, b, c int) (whole, rest int, err error) {
-	if !isAmount(a) || !isAmount(b) || !isAmount(c) || c == 0 {
+	if !bound.Amount(a) || !bound.Amount(b) || !bound.Some(c) {
 		return 0, 0, api.ErrBound
 	}
 	high, low := bits.Mul64(uint64(a), uint64(b))
@@ -80,8 +81,6 @@ func over(a, b, c int) (whole, rest int, err error) {
 	}
 	return int(quotient), int(left), nil
 }
-
-func isAmount(n int) bool { return n >= 0 && n <= api.MaxAmount }
 
 func onScale(n int) bool { return n >= 0 && n <= maxScale }
 
