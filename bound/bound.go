@@ -1,4 +1,4 @@
-// Package bound: which numbers are amounts, and which are owners, for all layers alike.
+// Package bound: which numbers are amounts, owners, bakers and cycles, for all layers alike.
 package bound
 
 import "bakehouse/api"
@@ -11,3 +11,9 @@ func Some(n int) bool { return n > 0 && n <= api.MaxAmount }
 
 // Owner: is n an owner's number?
 func Owner(n int) bool { return n >= 0 && n < api.Owners }
+
+// Baker: is n the number of an owner who may be a baker?
+func Baker(n int) bool { return n >= 0 && n < api.Bakers }
+
+// Cycle: is n a cycle's number?
+func Cycle(n int) bool { return n >= 0 && n <= api.MaxCycle }

@@ -510,3 +510,33 @@ func TestNoGain(t *testing.T) {
 		}
 	}
 }
+
+// A clone tells what its pool tells, and neither sees what is done to the other.
+func TestClone(t *testing.T) {
+	for i, from := range []steps{
+		{},
+		{join(0, 10)},
+		{join(0, 10), join(5, 3), add(20), slash(7)},
+		{join(0, 10), slash(100)},
+	} {
+		p := made(t, from...)
+		was := look(p)
+		c := p.Clone()
+		if look(c) != was || look(p) != was {
+			t.Errorf("%d: %v; want %v", i, look(c), was)
+		}
+		for _, step := range (steps{join(1, 5), join(0, 7), add(3), take(0, 2), slash(50), leave(0)}) {
+			step(c)
+			if look(p) != was {
+				t.Fatalf("%d: a clone is seen in its pool: %v; want %v", i, look(p), was)
+			}
+		}
+		c = p.Clone()
+		for _, step := range (steps{join(1, 5), join(0, 7), add(3), take(0, 2), slash(50), leave(0)}) {
+			step(p)
+			if look(c) != was {
+				t.Fatalf("%d: a pool is seen in its clone: %v; want %v", i, look(c), was)
+			}
+		}
+	}
+}
