@@ -35,3 +35,16 @@ func TestBounds(t *testing.T) {
 		}
 	}
 }
+
+func TestMillionths(t *testing.T) {
+	for n, want := range map[int]bool{
+		math.MinInt: false, -1: false, 0: true, 1: true, 999999: true, 1000000: true, 1000001: false, math.MaxInt: false,
+	} {
+		if bound.Millionths(n) != want {
+			t.Errorf("%d: %v", n, !want)
+		}
+	}
+	if bound.Whole != 1000000 {
+		t.Error(bound.Whole)
+	}
+}

@@ -8,9 +8,6 @@ import (
 	"bakehouse/bound"
 )
 
-// maxScale bounds both coordinates of a bend's points.
-const maxScale = 1000000
-
 // Down: a times b over c.
 func Down(a, b, c int) (int, error) {
 	whole, _, err := over(a, b, c)
@@ -35,7 +32,7 @@ func Check(l []api.Point) error {
 		return api.ErrShape
 	}
 	for i, p := range l {
-		if !onScale(p.X) || !onScale(p.Y) {
+		if !bound.Millionths(p.X) || !bound.Millionths(p.Y) {
 			return &api.Fault{At: i, Err: api.ErrBound}
 		}
 		if i > 0 && p.X <= l[i-1].X {
@@ -50,7 +47,7 @@ func Bend(l []api.Point, x int) (int, error) {
 	if err := Check(l); err != nil {
 		return 0, err
 	}
-	if !onScale(x) {
+	if !bound.Millionths(x) {
 		return 0, api.ErrBound
 	}
 	if x < l[0].X {
@@ -81,8 +78,6 @@ func over(a, b, c int) (whole, rest int, err error) {
 	}
 	return int(quotient), int(left), nil
 }
-
-func onScale(n int) bool { return n >= 0 && n <= maxScale }
 
 // between is a bend's height at x, which lies from p up to next, next aside.
 func between(p, next api.Point, x int) int {
